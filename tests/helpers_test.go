@@ -1,0 +1,198 @@
+package tests
+
+import (
+	"math"
+	"slices"
+	"testing"
+
+	"loop.example/closingsticks/impl"
+)
+
+// The limits are written out here, so that a changed constant is noticed.
+const (
+	lengthMax = 60
+	sticksMax = 9
+)
+
+// bundlesOf returns all bundles of 1 to most sticks with lengths of an ascending list.
+func bundlesOf(lengths []int, most int) [][]int {
+	var all [][]int
+	var grow func(b []int, from int)
+	grow = func(b []int, from int) {
+		if len(b) > 0 {
+			all = append(all, slices.Clone(b))
+		}
+		if len(b) == most {
+			return
+		}
+		for i := from; i < len(lengths); i++ {
+			grow(append(slices.Clone(b), lengths[i]), i)
+		}
+	}
+	grow(nil, 0)
+	return all
+}
+
+// someBundles returns all small bundles, and long ones with lengths of both ends.
+func someBundles() [][]int {
+	small := bundlesOf([]int{1, 2, 3, 4, 5, 6, 7, 8, 9, 10}, 4)
+	long := bundlesOf([]int{1, 2, 3, 5, 30, 59, 60}, sticksMax)
+	return slices.Concat(small, long, [][]int{
+		{1, 1, 2, 3, 5, 8, 13, 21, 34},
+		{1, 1, 2, 3, 5, 8, 13, 21, 33},
+		{52, 53, 54, 55, 56, 57, 58, 59, 60},
+		{4, 13, 13, 14, 15, 27, 42, 55, 60},
+	})
+}
+
+// someLists returns all lists of up to four numbers in and out of range, in any order.
+func someLists() [][]int {
+	numbers := []int{math.MinInt, -1, 0, 1, 2, 60, 61, math.MaxInt}
+	all := [][]int{nil, {}}
+	last := [][]int{{}}
+	for range 4 {
+		var next [][]int
+		for _, list := range last {
+			for _, x := range numbers {
+				next = append(next, append(slices.Clone(list), x))
+			}
+		}
+		all = append(all, next...)
+		last = next
+	}
+	return all
+}
+
+// noBundles returns lists that are no bundles, each for one reason.
+func noBundles() [][]int {
+	return [][]int{
+		nil,
+		{},
+		{0},
+		{-1},
+		{61},
+		{math.MinInt},
+		{math.MaxInt},
+		{2, 1},
+		{3, 4, 5, 4},
+		{0, 3, 4, 5},
+		{-3, 3, 4, 5},
+		{3, 4, 5, 61},
+		{1, 1, 1, 1, 1, 1, 1, 1, 1, 1},
+		{1, 1, 2, 3, 5, 8, 13, 21, 34, 55},
+		make([]int, 1000),
+	}
+}
+
+// sumOf returns the sum of a list.
+func sumOf(a []int) int {
+	total := 0
+	for _, x := range a {
+		total += x
+	}
+	return total
+}
+
+// isBundle tells by the words of the document whether a list is a bundle.
+func isBundle(a []int) bool {
+	if len(a) == 0 || len(a) > sticksMax {
+		return false
+	}
+	for i, x := range a {
+		if x < 1 || x > lengthMax || i > 0 && a[i-1] > x {
+			return false
+		}
+	}
+	return true
+}
+
+// sides tells whether three lengths in range are sides of a triangle.
+func sides(a int, b int, c int) bool {
+	return a+b > c && a+c > b && b+c > a
+}
+
+// trianglesOf returns the sums of all threes of places that are sides of a triangle.
+func trianglesOf(a []int) []int {
+	var sums []int
+	for k := range a {
+		for j := range k {
+			for i := range j {
+				if sides(a[i], a[j], a[k]) {
+					sums = append(sums, a[i]+a[j]+a[k])
+				}
+			}
+		}
+	}
+	return sums
+}
+
+// wantList checks the results of a function that returns a list.
+func wantList(t *testing.T, name string, got []int, ok bool, want []int) {
+	t.Helper()
+	if !ok || !slices.Equal(got, want) {
+		t.Errorf("%s returned %v, %v instead of %v, true", name, got, ok, want)
+	}
+}
+
+// wantNumber checks the results of a function that returns a number.
+func wantNumber(t *testing.T, name string, got int, ok bool, want int) {
+	t.Helper()
+	if !ok || got != want {
+		t.Errorf("%s returned %d, %v instead of %d, true", name, got, ok, want)
+	}
+}
+
+// wantNoList checks that a function that returns a list failed.
+func wantNoList(t *testing.T, name string, got []int, ok bool) {
+	t.Helper()
+	if ok || len(got) != 0 {
+		t.Errorf("%s returned %v, %v instead of nothing, false", name, got, ok)
+	}
+}
+
+// wantNoNumber checks that a function that returns a number failed.
+func wantNoNumber(t *testing.T, name string, got int, ok bool) {
+	t.Helper()
+	if ok || got != 0 {
+		t.Errorf("%s returned %d, %v instead of 0, false", name, got, ok)
+	}
+}
+
+// wantOwn checks that a function changes neither its argument nor what lies behind
+// it in the same memory, and that its result shares memory with neither of them
+// nor with the result of another call.
+func wantOwn(t *testing.T, name string, a []int, call func([]int) []int) {
+	t.Helper()
+	room := make([]int, len(a)+4)
+	for i := range room {
+		room[i] = -7
+	}
+	copy(room, a)
+	before := slices.Clone(room)
+	one := call(room[:len(a)])
+	if !slices.Equal(room, before) {
+		t.Errorf("%s of %v changed its argument to %v", name, a, room)
+	}
+	two := call(room[:len(a)])
+	kept := slices.Clone(two)
+	one = one[:cap(one)]
+	for i := range one {
+		one[i] = 99
+	}
+	if !slices.Equal(room, before) {
+		t.Errorf("%s of %v returned memory of its argument", name, a)
+	}
+	if !slices.Equal(two, kept) {
+		t.Errorf("%s of %v returned the same memory twice", name, a)
+	}
+}
+
+// mustSort returns StickSort of a list that it succeeds for.
+func mustSort(t *testing.T, a []int) []int {
+	t.Helper()
+	b, ok := impl.StickSort(a)
+	if !ok {
+		t.Fatalf("StickSort of %v failed", a)
+	}
+	return b
+}
