@@ -187,6 +187,106 @@ func wantOwn(t *testing.T, name string, a []int, call func([]int) []int) {
 	}
 }
 
+// isTriangle tells by the words of the document whether a list is a triangle.
+func isTriangle(a []int) bool {
+	return len(a) == 3 && isBundle(a) && sides(a[0], a[1], a[2])
+}
+
+// allTriangles returns all triangles with lengths of at most n, in the order of lists.
+func allTriangles(n int) [][]int {
+	var all [][]int
+	for a := 1; a <= n; a++ {
+		for b := a; b <= n; b++ {
+			for c := b; c <= n && c < a+b; c++ {
+				all = append(all, []int{a, b, c})
+			}
+		}
+	}
+	return all
+}
+
+// noTriangles returns lists that are no triangles, each for one reason.
+func noTriangles() [][]int {
+	return slices.Concat(noBundles(), [][]int{
+		{5},
+		{4, 4},
+		{3, 4, 5, 6},
+		{3, 3, 3, 3, 3},
+		{5, 4, 3},
+		{4, 3, 5},
+		{3, 5, 4},
+		{1, 1, 2},
+		{1, 2, 3},
+		{1, 1, 60},
+		{20, 40, 60},
+		{0, 0, 0},
+		{0, 5, 5},
+		{-5, -5, -5},
+		{-4, 3, 3},
+		{60, 60, 61},
+		{61, 61, 61},
+		{math.MaxInt, math.MaxInt, math.MaxInt},
+		{math.MinInt, math.MinInt, math.MinInt},
+		{math.MinInt, 1, math.MaxInt},
+	})
+}
+
+// wantLists checks the results of a function that returns lists.
+func wantLists(t *testing.T, name string, got [][]int, ok bool, want [][]int) {
+	t.Helper()
+	if !ok || !slices.EqualFunc(got, want, slices.Equal) {
+		t.Errorf("%s returned %v, %v instead of %v, true", name, got, ok, want)
+	}
+}
+
+// wantNoLists checks that a function that returns lists failed.
+func wantNoLists(t *testing.T, name string, got [][]int, ok bool) {
+	t.Helper()
+	if ok || len(got) != 0 {
+		t.Errorf("%s returned %v, %v instead of nothing, false", name, got, ok)
+	}
+}
+
+// wantWord checks the results of a function that returns a text.
+func wantWord(t *testing.T, name string, got string, ok bool, want string) {
+	t.Helper()
+	if !ok || got != want {
+		t.Errorf("%s returned %q, %v instead of %q, true", name, got, ok, want)
+	}
+}
+
+// wantNoWord checks that a function that returns a text failed.
+func wantNoWord(t *testing.T, name string, got string, ok bool) {
+	t.Helper()
+	if ok || got != "" {
+		t.Errorf("%s returned %q, %v instead of nothing, false", name, got, ok)
+	}
+}
+
+// wantOwnLists checks that no two lists of the results of a function share memory,
+// and that it returns the same whatever is done with an earlier result.
+func wantOwnLists(t *testing.T, name string, call func() [][]int) {
+	t.Helper()
+	one, two := call(), call()
+	want := make([][]int, len(two))
+	for i := range two {
+		want[i] = slices.Clone(two[i])
+	}
+	for i := range one {
+		list := one[i][:cap(one[i])]
+		for j := range list {
+			list[j] = 99
+		}
+		if !slices.EqualFunc(one[i+1:], want[i+1:], slices.Equal) {
+			t.Errorf("%s returned lists that share memory", name)
+		}
+	}
+	clear(one[:cap(one)])
+	if !slices.EqualFunc(two, want, slices.Equal) || !slices.EqualFunc(call(), want, slices.Equal) {
+		t.Errorf("%s returned the same memory twice", name)
+	}
+}
+
 // mustSort returns StickSort of a list that it succeeds for.
 func mustSort(t *testing.T, a []int) []int {
 	t.Helper()
