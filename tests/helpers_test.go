@@ -296,3 +296,19 @@ func mustSort(t *testing.T, a []int) []int {
 	}
 	return b
 }
+
+// wantPair checks the results of a function that returns two numbers.
+func wantPair(t *testing.T, name string, one int, two int, ok bool, want [2]int) {
+	t.Helper()
+	if !ok || one != want[0] || two != want[1] {
+		t.Errorf("%s returned %d, %d, %v instead of %d, %d, true", name, one, two, ok, want[0], want[1])
+	}
+}
+
+// wantNoPair checks that a function that returns two numbers failed.
+func wantNoPair(t *testing.T, name string, one int, two int, ok bool) {
+	t.Helper()
+	if ok || one != 0 || two != 0 {
+		t.Errorf("%s returned %d, %d, %v instead of 0, 0, false", name, one, two, ok)
+	}
+}
