@@ -312,3 +312,58 @@ func wantNoPair(t *testing.T, name string, one int, two int, ok bool) {
 		t.Errorf("%s returned %d, %d, %v instead of 0, 0, false", name, one, two, ok)
 	}
 }
+
+// deepClone returns a copy of lists that shares no memory with them.
+func deepClone(lists [][]int) [][]int {
+	var all [][]int
+	for _, list := range lists {
+		all = append(all, slices.Clone(list))
+	}
+	return all
+}
+
+// sameLists tells whether lists are the same.
+func sameLists(one [][]int, two [][]int) bool {
+	return slices.EqualFunc(one, two, slices.Equal)
+}
+
+// inOneRow returns a copy of lists that lie in one row of memory, each with room behind
+// it, and the row.
+func inOneRow(lists [][]int) ([][]int, []int) {
+	const gap = 2
+	size := 0
+	for _, list := range lists {
+		size += len(list) + gap
+	}
+	row := slices.Repeat([]int{-7}, size)
+	var all [][]int
+	begin := 0
+	for _, list := range lists {
+		copy(row[begin:], list)
+		all = append(all, row[begin:begin+len(list)])
+		begin += len(list) + gap
+	}
+	return all, row
+}
+
+// wantOwnRows checks that a function changes neither its argument nor what lies behind it
+// in the same memory, and that its result shares no memory with either.
+func wantOwnRows(t *testing.T, name string, p [][]int, call func([][]int) [][]int) {
+	t.Helper()
+	lists, row := inOneRow(p)
+	before := slices.Clone(row)
+	room := append(lists, []int{5, 5}, []int{6, 6})
+	kept := deepClone(room)
+	made := call(room[:len(p)])
+	for _, list := range made {
+		list = list[:cap(list)]
+		for i := range list {
+			list[i] = 99
+		}
+	}
+	clear(made[:cap(made)])
+	if !slices.Equal(row, before) || !sameLists(room, kept) {
+		t.Errorf("%s of %v changed its argument, or returned memory of it", name, p)
+	}
+	wantOwnLists(t, name, func() [][]int { return call(room[:len(p)]) })
+}
