@@ -25,6 +25,9 @@ type three struct {
 	a, b, c int
 }
 
+// trio is three places of a bundle, in ascending order.
+type trio [3]int
+
 // isLength reports whether a number may be the length of a stick.
 func isLength(x int) bool {
 	return x >= 1 && x <= LengthMax
@@ -53,13 +56,15 @@ func (b bundle) valid() bool {
 	return slices.IsSorted(b)
 }
 
-// threes gives each choice of three places once, as the lengths there.
-func (b bundle) threes() iter.Seq[three] {
-	return func(yield func(three) bool) {
+// closing gives each choice of three places whose sticks are sides of a triangle once, in
+// the order of lists.
+func (b bundle) closing() iter.Seq[trio] {
+	return func(yield func(trio) bool) {
 		for i := range b {
 			for j := i + 1; j < len(b); j++ {
 				for k := j + 1; k < len(b); k++ {
-					if !yield(three{b[i], b[j], b[k]}) {
+					t := three{b[i], b[j], b[k]}
+					if t.closes() && !yield(trio{i, j, k}) {
 						return
 					}
 				}
@@ -70,10 +75,8 @@ func (b bundle) threes() iter.Seq[three] {
 
 // free reports whether no three sticks are sides of a triangle.
 func (b bundle) free() bool {
-	for t := range b.threes() {
-		if t.closes() {
-			return false
-		}
+	for range b.closing() {
+		return false
 	}
 	return true
 }
@@ -141,10 +144,8 @@ func StickMany(a []int) (int, bool) {
 		return 0, false
 	}
 	many := 0
-	for t := range b.threes() {
-		if t.closes() {
-			many++
-		}
+	for range b.closing() {
+		many++
 	}
 	return many, true
 }
